@@ -7,11 +7,6 @@ import (
 	"parlour/api"
 )
 
-const empty = '.'
-
-// caseBit is the one bit in which a capital letter and its small one differ.
-const caseBit = 'a' ^ 'A'
-
 // Check: P3.
 func Check(p api.Position) api.Errno {
 	if !isSide(p.W) || !isSide(p.H) || !areCells(p.Cells, p.W*p.H) {
@@ -27,10 +22,6 @@ func Check(p api.Position) api.Errno {
 }
 
 func isSide(n int) bool { return 1 <= n && n <= api.MaxSide }
-
-func isCapital(c byte) bool { return 'A' <= c && c <= 'Z' }
-
-func isCell(c byte) bool { return c == empty || isCapital(c&^caseBit) }
 
 func areCells(s string, n int) bool {
 	if len(s) != n {

@@ -87,7 +87,7 @@ func nthCells(cells string, total, n int64) string {
 	nth := make([]byte, len(cells))
 	for i := range nth {
 		left := int64(len(cells) - i)
-		c := byte(empty)
+		c := byte(Empty)
 		size := share(total, counts[c], left)
 		// n is below total, the sum of all sizes: one of the letters is the one.
 		for n >= size {

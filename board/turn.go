@@ -106,7 +106,7 @@ func Swapped(p api.Position) (api.Position, api.Errno) {
 func otherCase(cells string) string {
 	others := []byte(cells)
 	for i, c := range others {
-		if c != empty {
+		if c != Empty {
 			others[i] = c ^ caseBit
 		}
 	}

@@ -281,3 +281,31 @@ func TestAnswersAreNewMemory(t *testing.T) {
 		t.Errorf("%+v was kept", again)
 	}
 }
+
+func TestCheckPosition(t *testing.T) {
+	r := fine()
+	for _, x := range []struct {
+		p    api.Position
+		want api.Errno
+	}{
+		{r.Start, api.OK},
+		{api.Position{W: 3, H: 2, Cells: "......"}, api.OK},
+		{api.Position{W: 3, H: 2, Cells: "zZkKpP", Turn: 1, Hands: [2]string{"KPZ", "ZZZZZZZZ"}}, api.OK},
+		{api.Position{W: 2, H: 3, Cells: "......"}, api.ErrArg},
+		{api.Position{W: 3, H: 1, Cells: "..."}, api.ErrArg},
+		{api.Position{W: 3, H: 2, Cells: "....."}, api.ErrArg},
+		{api.Position{W: 3, H: 2, Cells: "...A.."}, api.ErrArg},
+		{api.Position{W: 3, H: 2, Cells: "...a.."}, api.ErrArg},
+		{api.Position{W: 3, H: 2, Cells: "......", Hands: [2]string{"A", ""}}, api.ErrArg},
+		{api.Position{W: 3, H: 2, Cells: "......", Hands: [2]string{"", "KL"}}, api.ErrArg},
+		{api.Position{}, api.ErrArg},
+	} {
+		if e := rules.CheckPosition(r, x.p); e != x.want {
+			t.Errorf("%+v: %v", x.p, e)
+		}
+	}
+	r.Plies = 0
+	if e := rules.CheckPosition(r, r.Start); e != api.ErrArg {
+		t.Error(e)
+	}
+}
