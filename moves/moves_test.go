@@ -252,6 +252,9 @@ func TestWrongPairs(t *testing.T) {
 		if l, e := moves.Moves(r, p); l != nil || e != api.ErrArg {
 			t.Error(name, "Moves:", l, e)
 		}
+		if l, next, e := moves.Next(r, p); l != nil || next != nil || e != api.ErrArg {
+			t.Error(name, "Next:", l, next, e)
+		}
 		for _, m := range []api.Move{{}, {From: 3, To: 4, Piece: 'K'}, {From: math.MinInt, To: math.MaxInt}} {
 			if q, e := moves.Apply(r, p, m); q != (api.Position{}) || e != api.ErrArg {
 				t.Error(name, "Apply:", q, e)
@@ -316,6 +319,9 @@ func TestNothingBehindTheEnd(t *testing.T) {
 	if l, e := moves.Moves(r, p); len(l) != 0 || e != api.OK {
 		t.Error(l, e)
 	}
+	if l, next, e := moves.Next(r, p); len(l) != 0 || len(next) != 0 || e != api.OK {
+		t.Error(l, next, e)
+	}
 	if q, e := moves.Apply(r, p, m); q != (api.Position{}) || e != api.ErrMove {
 		t.Error(q, e)
 	}
@@ -357,6 +363,15 @@ func TestAnswersAreNewMemory(t *testing.T) {
 			}
 		}
 	}
+	l, next, _ := moves.Next(r, p)
+	for i, q := range next {
+		if shares(q.Cells, p.Cells) || shares(q.Hands[0], p.Hands[0]) || shares(q.Hands[1], p.Hands[1]) {
+			t.Error(l[i], q)
+		}
+		if i > 0 && (shares(q.Hands[0], next[i-1].Hands[0]) || shares(q.Hands[1], next[i-1].Hands[1])) {
+			t.Error(l[i], "shares with the one ahead of it")
+		}
+	}
 	one, _ := moves.Moves(r, p)
 	clear(one[:cap(one)])
 	two, _ := moves.Moves(r, p)
@@ -375,6 +390,7 @@ func TestWhatIsHandedInStays(t *testing.T) {
 	q := p
 	l, _ := moves.Moves(r, p)
 	moves.Apply(r, p, l[0])
+	moves.Next(r, p)
 	moves.Outcome(r, p)
 	moves.Text(r, p, l[0])
 	moves.Read(r, p, "Ka2-b2")

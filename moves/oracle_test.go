@@ -283,6 +283,13 @@ func TestManyGames(t *testing.T) {
 		if !slices.Equal(l, all) || e != api.OK {
 			t.Fatalf("%+v %+v: %v %v, not %v", r, p, l, e, all)
 		}
+		var behind []api.Position
+		for _, m := range all {
+			behind = append(behind, slowApply(r, p, m))
+		}
+		if l, next, e := moves.Next(r, p); !slices.Equal(l, all) || !slices.Equal(next, behind) || e != api.OK {
+			t.Fatalf("%+v %+v: Next %v %v %v, not %v %v", r, p, l, next, e, all, behind)
+		}
 		for _, i := range rnd.Perm(len(all))[:min(len(all), 20)] {
 			m, s := all[i], slowText(p, all[i])
 			if q, e := moves.Apply(r, p, m); q != slowApply(r, p, m) || e != api.OK || rules.CheckPosition(r, q) != api.OK {
