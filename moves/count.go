@@ -40,7 +40,7 @@ func further(r api.Rules, ways map[api.Position]int) (map[api.Position]int, int)
 			return nil, all
 		}
 		for _, m := range l {
-			next[behind(r, p, m)] += n
+			next[Behind(r, p, m)] += n
 		}
 	}
 	return next, all

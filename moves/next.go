@@ -15,7 +15,7 @@ func Next(r api.Rules, p api.Position) ([]api.Move, []api.Position, api.Errno) {
 	l := list(r, p)
 	next := make([]api.Position, len(l))
 	for i, m := range l {
-		next[i] = behind(r, p, m)
+		next[i] = Behind(r, p, m)
 	}
 	return l, next, api.OK
 }

@@ -295,6 +295,9 @@ func TestManyGames(t *testing.T) {
 			if q, e := moves.Apply(r, p, m); q != slowApply(r, p, m) || e != api.OK || rules.CheckPosition(r, q) != api.OK {
 				t.Fatalf("%+v %+v %v: %+v %v", r, p, m, q, e)
 			}
+			if q := moves.Behind(r, p, m); q != slowApply(r, p, m) {
+				t.Fatalf("%+v %+v %v: Behind %+v", r, p, m, q)
+			}
 			if u, e := moves.Text(r, p, m); u != s || e != api.OK {
 				t.Fatalf("%+v %v: %s %v, not %s", p, m, u, e, s)
 			}

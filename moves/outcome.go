@@ -20,13 +20,27 @@ func outcome(r api.Rules, p api.Position) int {
 	if o := decided(r, p); o != api.Open {
 		return o
 	}
-	if len(possible(r, p)) > 0 {
+	if canMove(r, p) {
 		return api.Open
 	}
 	if r.Stuck {
 		return wonBy(1 - p.Turn)
 	}
 	return api.Draw
+}
+
+// canMove tells whether there are possible moves; it need not list them all.
+func canMove(r api.Rules, p api.Position) bool {
+	if r.Drops && p.Hands[p.Turn] != "" && strings.IndexByte(p.Cells, board.Empty) >= 0 {
+		return true
+	}
+	for from := range len(p.Cells) {
+		c := p.Cells[from]
+		if board.IsOf(p.Turn, c) && goalsOf(p, from, waysOf(r, board.Capital(c))) != 0 {
+			return true
+		}
+	}
+	return false
 }
 
 func wonBy(player int) int {
