@@ -430,11 +430,43 @@ func TestCallsAtTheSameTime(t *testing.T) {
 	group.Wait()
 }
 
-// settled waits, for some time at most, until there are no more goroutines than
-// that: one that has said that it is done may still be there for a moment.
-func settled(n int) bool {
-	for range 1000 {
-		if runtime.NumGoroutine() <= n {
+// atWork counts the goroutines that are there, but for those that the tests or
+// the runtime began. All of them are held still while they are listed;
+// runtime.NumGoroutine adds up numbers that change meanwhile, so that it tells
+// too many at times.
+func atWork(t *testing.T) int {
+	t.Helper()
+	list := make([]byte, 1<<20)
+	size := runtime.Stack(list, true)
+	if size == len(list) {
+		t.Fatal("there is no room for all goroutines")
+	}
+	n := 0
+	for stack := range strings.SplitSeq(string(list[:size]), "\n\n") {
+		_, creator, ok := strings.Cut(stack, "\ncreated by ")
+		if ok && !isBeside(creator) {
+			n++
+		}
+	}
+	return n
+}
+
+// isBeside tells of who began a goroutine whether that is not the program.
+func isBeside(creator string) bool {
+	for _, name := range []string{"runtime.", "testing.", "parlour/search_test."} {
+		if strings.HasPrefix(creator, name) {
+			return true
+		}
+	}
+	return false
+}
+
+// settled waits, for some time at most, until nobody is at work any more: one
+// that has said that it is done may still be there for a moment.
+func settled(t *testing.T) bool {
+	t.Helper()
+	for range 10000 {
+		if atWork(t) == 0 {
 			return true
 		}
 		time.Sleep(time.Millisecond)
@@ -442,11 +474,35 @@ func settled(n int) bool {
 	return false
 }
 
+// Whoever is begun, by whatever means, is counted.
+func TestAtWork(t *testing.T) {
+	if !settled(t) {
+		t.Fatal("goroutines of other tests are left")
+	}
+	for _, workers := range []int{1, 2, 5, 16, 17} {
+		end := make(chan int)
+		var group sync.WaitGroup
+		for range workers {
+			group.Go(func() { <-end })
+		}
+		if n := atWork(t); n != workers {
+			t.Error(n, "goroutines, not", workers)
+		}
+		close(end)
+		group.Wait()
+		if !settled(t) {
+			t.Fatal("goroutines are left")
+		}
+	}
+}
+
 func TestGoroutines(t *testing.T) {
 	empty := strings.Repeat("......../", 4)
 	r := game(t, "start pppppppp/pppppppp/"+empty+"PPPPPPPP/PPPPPPPP w -/-",
 		"piece P 1: step 0 1 quiet, step 1 1", "reach P", "stuck", "plies 200")
-	before := runtime.NumGoroutine()
+	if !settled(t) {
+		t.Fatal("goroutines of other tests are left")
+	}
 	for _, workers := range []int{1, 2, 5, 16} {
 		done := make(chan answer)
 		go func() { done <- ask(r, r.Start, 5, workers, 1000) }()
@@ -459,16 +515,15 @@ func TestGoroutines(t *testing.T) {
 					t.Error(workers, a)
 				}
 			default:
-				// Beside those of before there is the one that asks.
-				most = max(most, runtime.NumGoroutine()-before-1)
+				most = max(most, atWork(t))
 				runtime.Gosched()
 			}
 		}
 		if most > workers {
 			t.Error(most, "goroutines, not", workers)
 		}
-		if !settled(before) {
-			t.Error(workers, "goroutines are left")
+		if !settled(t) {
+			t.Fatal(workers, "workers: goroutines are left")
 		}
 	}
 }
