@@ -31,56 +31,73 @@ func nameOf(n nature) string {
 	return ""
 }
 
+// namer tells the natures of games, and keeps those that it was asked for.
+type namer struct {
+	*tables
+	natures map[game]nature
+}
+
+func newNamer(t *tables) *namer { return &namer{tables: t, natures: map[game]nature{}} }
+
+func (n *namer) nature(g game) nature {
+	x, known := n.natures[g]
+	if !known {
+		x = n.natureOf(g)
+		n.natures[g] = x
+	}
+	return x
+}
+
 // natureOf needs to know those of what can be moved to.
-func (w *writer) natureOf(g game) nature {
-	l, r := w.moves[g][left], w.moves[g][right]
-	if f, ok := w.fractionOf(l, r); ok {
+func (n *namer) natureOf(g game) nature {
+	l, r := n.moves[g][left], n.moves[g][right]
+	if f, ok := n.fractionOf(l, r); ok {
 		return nature{kind: number, fraction: f}
 	}
-	if slices.Equal(l, r) && w.areHeaps(l) {
+	if slices.Equal(l, r) && n.areHeaps(l) {
 		return nature{kind: star, heap: len(l)}
 	}
 	if len(l) == 1 && len(r) == 1 {
 		switch {
-		case l[0] == zero && w.isStar(r[0]):
+		case l[0] == zero && n.isStar(r[0]):
 			return nature{kind: up}
-		case w.isStar(l[0]) && r[0] == zero:
+		case n.isStar(l[0]) && r[0] == zero:
 			return nature{kind: down}
 		}
 	}
 	return nature{kind: braces}
 }
 
-func (w *writer) areHeaps(games []game) bool {
-	return !slices.ContainsFunc(games, func(g game) bool { return g != zero && w.wording(g).kind != star })
+func (n *namer) areHeaps(games []game) bool {
+	return !slices.ContainsFunc(games, func(g game) bool { return g != zero && n.nature(g).kind != star })
 }
 
 // isStar tells whether it is the one with a heap of one.
-func (w *writer) isStar(g game) bool {
-	x := w.wording(g)
+func (n *namer) isStar(g game) bool {
+	x := n.nature(g)
 	return x.kind == star && x.heap == 1
 }
 
 // fractionOf is the number that has these moves, if it is one: of a canonical
 // game in which only one can move it is a whole one, of one in which both can
 // it lies in the middle.
-func (w *writer) fractionOf(l, r []game) (fraction, bool) {
-	if len(l) > 1 || len(r) > 1 || !w.areNumbers(l) || !w.areNumbers(r) {
+func (n *namer) fractionOf(l, r []game) (fraction, bool) {
+	if len(l) > 1 || len(r) > 1 || !n.areNumbers(l) || !n.areNumbers(r) {
 		return fraction{}, false
 	}
 	switch {
 	case len(l) > 0 && len(r) > 0:
-		return middle(w.wording(l[0]).fraction, w.wording(r[0]).fraction)
+		return middle(n.nature(l[0]).fraction, n.nature(r[0]).fraction)
 	case len(l) > 0:
-		return fraction{w.wording(l[0]).n + 1, 1}, true
+		return fraction{n.nature(l[0]).n + 1, 1}, true
 	case len(r) > 0:
-		return fraction{w.wording(r[0]).n - 1, 1}, true
+		return fraction{n.nature(r[0]).n - 1, 1}, true
 	}
 	return fraction{0, 1}, true
 }
 
-func (w *writer) areNumbers(games []game) bool {
-	return !slices.ContainsFunc(games, func(g game) bool { return w.wording(g).kind != number })
+func (n *namer) areNumbers(games []game) bool {
+	return !slices.ContainsFunc(games, func(g game) bool { return n.nature(g).kind != number })
 }
 
 // fraction is n/d in lowest terms; d is a power of 2. What is written has no

@@ -128,7 +128,11 @@ func (t *tables) isAsGood(player int, a, b game) bool {
 }
 
 // isLarge tells whether a game has more positions than it may have.
-func (t *tables) isLarge(g game) bool {
+func (t *tables) isLarge(g game) bool { return len(t.reach(g)) > maxPositions }
+
+// reach are a game and all that moves lead to from it; if these are more than
+// there may be, only some of them are looked for, but more than there may be.
+func (t *tables) reach(g game) []game {
 	met := map[game]struct{}{g: {}}
 	all := []game{g}
 	for i := 0; i < len(all) && len(all) <= maxPositions; i++ {
@@ -139,5 +143,5 @@ func (t *tables) isLarge(g game) bool {
 			}
 		}
 	}
-	return len(all) > maxPositions
+	return all
 }

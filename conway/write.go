@@ -14,9 +14,13 @@ const mostAnswered = 1<<31 - 1
 // made for themselves: each is written into the whole once, and copied from
 // there if it is needed again.
 type writer struct {
-	*tables
+	*namer
 	strings.Builder
 	known map[game]*wording
+}
+
+func newWriter(t *tables) *writer {
+	return &writer{namer: newNamer(t), known: map[game]*wording{}}
 }
 
 // wording is how a game is written: by its name, or in braces. size is how many
@@ -39,7 +43,7 @@ type item struct {
 }
 
 func (t *tables) text(g game) string {
-	w := &writer{tables: t, known: map[game]*wording{}}
+	w := newWriter(t)
 	w.Grow(w.wording(g).size)
 	w.write(g)
 	return w.String()
@@ -49,7 +53,7 @@ func (w *writer) wording(g game) *wording {
 	if x := w.known[g]; x != nil {
 		return x
 	}
-	x := &wording{nature: w.natureOf(g)}
+	x := &wording{nature: w.nature(g)}
 	x.name = nameOf(x.nature)
 	x.size = len(x.name)
 	if x.kind == braces {

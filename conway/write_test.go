@@ -57,7 +57,7 @@ func TestTextsWithoutMakingThem(t *testing.T) {
 		for range 30 {
 			tables.enter(sides{someMoves(rnd, tables), someMoves(rnd, tables)})
 		}
-		w := &writer{tables: tables, known: map[game]*wording{}}
+		w := newWriter(tables)
 		known := map[game]string{}
 		for i := range tables.moves {
 			a := game(i)
@@ -91,7 +91,7 @@ func TestOrderByWhatStandsBetween(t *testing.T) {
 	tables := newTables()
 	x, y := tables.read("{8|-8}"), tables.read("{9|-9}")
 	a, b := tables.enter(sides{{x, y}, {y}}), tables.enter(sides{{x}, {y, y}})
-	w := &writer{tables: tables, known: map[game]*wording{}}
+	w := newWriter(tables)
 	if tables.text(a) != "{{8|-8},{9|-9}|{9|-9}}" || tables.text(b) != "{{8|-8}|{9|-9},{9|-9}}" || w.compare(a, b) >= 0 || w.compare(b, a) <= 0 {
 		t.Error(tables.text(a), tables.text(b), w.compare(a, b), w.compare(b, a))
 	}
